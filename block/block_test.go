@@ -1,4 +1,4 @@
-package block
+package block_test
 
 import (
 	"math"
@@ -7,6 +7,7 @@ import (
 	"testing"
 
 	"gleaner/api"
+	. "gleaner/block"
 )
 
 // lists are some rising lists, each number some steps from the one ahead.

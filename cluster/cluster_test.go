@@ -1,4 +1,4 @@
-package cluster
+package cluster_test
 
 import (
 	"fmt"
@@ -8,6 +8,7 @@ import (
 	"testing"
 
 	"gleaner/api"
+	. "gleaner/cluster"
 	"gleaner/label"
 	"gleaner/matcher"
 	"gleaner/net"
@@ -61,6 +62,12 @@ func do(t *testing.T, c api.Cluster, l ...api.Act) api.Cluster {
 		c = next
 	}
 	return c
+}
+
+// entries are what node i has at home.
+func entries(c api.Cluster, i int) []api.Entry {
+	s, _ := node.Shard(c.Nodes[i], 0)
+	return s.Set.Entries
 }
 
 func TestP27_1New(t *testing.T) {

@@ -1,4 +1,4 @@
-package codec
+package codec_test
 
 import (
 	"math"
@@ -7,6 +7,7 @@ import (
 	"testing"
 
 	"gleaner/api"
+	. "gleaner/codec"
 )
 
 func dots(l ...int) []api.Dot {

@@ -1,4 +1,4 @@
-package coord
+package coord_test
 
 import (
 	"math"
@@ -7,6 +7,7 @@ import (
 	"testing"
 
 	"gleaner/api"
+	. "gleaner/coord"
 	"gleaner/plan"
 )
 

@@ -1,4 +1,4 @@
-package cursor
+package cursor_test
 
 import (
 	"math"
@@ -7,6 +7,7 @@ import (
 	"testing"
 
 	"gleaner/api"
+	. "gleaner/cursor"
 	"gleaner/posting"
 )
 

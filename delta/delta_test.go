@@ -1,4 +1,4 @@
-package delta
+package delta_test
 
 import (
 	"fmt"
@@ -7,6 +7,7 @@ import (
 	"testing"
 
 	"gleaner/api"
+	. "gleaner/delta"
 	"gleaner/dot"
 	"gleaner/orset"
 )

@@ -1,4 +1,4 @@
-package dfa
+package dfa_test
 
 import (
 	"math"
@@ -8,6 +8,7 @@ import (
 	"testing"
 
 	"gleaner/api"
+	. "gleaner/dfa"
 	"gleaner/nfa"
 	"gleaner/rx"
 	"gleaner/rxtext"

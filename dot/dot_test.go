@@ -1,4 +1,4 @@
-package dot
+package dot_test
 
 import (
 	"math"
@@ -7,6 +7,7 @@ import (
 	"testing"
 
 	"gleaner/api"
+	. "gleaner/dot"
 )
 
 // dots makes dots of nodes and numbers by turns.

@@ -1,4 +1,4 @@
-package fast
+package fast_test
 
 import (
 	"fmt"
@@ -7,6 +7,7 @@ import (
 	"testing"
 
 	"gleaner/api"
+	. "gleaner/fast"
 	"gleaner/index"
 	"gleaner/matcher"
 	"gleaner/series"

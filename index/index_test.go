@@ -1,4 +1,4 @@
-package index
+package index_test
 
 import (
 	"fmt"
@@ -7,6 +7,7 @@ import (
 	"testing"
 
 	"gleaner/api"
+	. "gleaner/index"
 	"gleaner/label"
 	"gleaner/matcher"
 	"gleaner/series"

@@ -1,4 +1,4 @@
-package judge
+package judge_test
 
 import (
 	"fmt"
@@ -6,6 +6,7 @@ import (
 	"testing"
 
 	"gleaner/api"
+	. "gleaner/judge"
 )
 
 const a, b, c = `{a="1"}`, `{b="1"}`, `{c="1"}`

@@ -1,4 +1,4 @@
-package label
+package label_test
 
 import (
 	"fmt"
@@ -7,6 +7,7 @@ import (
 	"testing"
 
 	"gleaner/api"
+	. "gleaner/label"
 )
 
 // pairs makes labels of names and values by turns.

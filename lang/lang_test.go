@@ -1,4 +1,4 @@
-package lang
+package lang_test
 
 import (
 	"reflect"
@@ -8,6 +8,7 @@ import (
 
 	"gleaner/api"
 	"gleaner/dfa"
+	. "gleaner/lang"
 	"gleaner/least"
 	"gleaner/nfa"
 	"gleaner/rx"

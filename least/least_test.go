@@ -1,4 +1,4 @@
-package least
+package least_test
 
 import (
 	"reflect"
@@ -9,6 +9,7 @@ import (
 
 	"gleaner/api"
 	"gleaner/dfa"
+	. "gleaner/least"
 	"gleaner/nfa"
 	"gleaner/rx"
 )

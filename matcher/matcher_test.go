@@ -1,4 +1,4 @@
-package matcher
+package matcher_test
 
 import (
 	"reflect"
@@ -10,6 +10,7 @@ import (
 	"gleaner/dfa"
 	"gleaner/label"
 	"gleaner/least"
+	. "gleaner/matcher"
 	"gleaner/rx"
 	"gleaner/rxtext"
 )

@@ -1,4 +1,4 @@
-package net
+package net_test
 
 import (
 	"math"
@@ -7,6 +7,7 @@ import (
 	"testing"
 
 	"gleaner/api"
+	. "gleaner/net"
 )
 
 // msg is a message with a number, and with lists.

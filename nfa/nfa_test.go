@@ -1,4 +1,4 @@
-package nfa
+package nfa_test
 
 import (
 	"math"
@@ -7,6 +7,7 @@ import (
 	"testing"
 
 	"gleaner/api"
+	. "gleaner/nfa"
 	"gleaner/rx"
 	"gleaner/rxtext"
 )

@@ -1,4 +1,4 @@
-package node
+package node_test
 
 import (
 	"fmt"
@@ -11,6 +11,7 @@ import (
 	"gleaner/dot"
 	"gleaner/label"
 	"gleaner/matcher"
+	. "gleaner/node"
 	"gleaner/orset"
 	"gleaner/place"
 	"gleaner/shard"

@@ -1,4 +1,4 @@
-package orset
+package orset_test
 
 import (
 	"math"
@@ -8,6 +8,7 @@ import (
 
 	"gleaner/api"
 	"gleaner/dot"
+	. "gleaner/orset"
 )
 
 const a, b, c = `{a="1"}`, `{b="1"}`, `{c="1"}`

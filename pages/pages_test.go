@@ -1,4 +1,4 @@
-package pages
+package pages_test
 
 import (
 	"fmt"
@@ -9,6 +9,7 @@ import (
 	"testing"
 
 	"gleaner/api"
+	. "gleaner/pages"
 )
 
 var abc = []string{"a", "b", "c"}

@@ -1,4 +1,4 @@
-package place
+package place_test
 
 import (
 	"math"
@@ -6,6 +6,7 @@ import (
 	"testing"
 
 	"gleaner/api"
+	. "gleaner/place"
 )
 
 func config(nodes, groups, copies, life int) api.Config {

@@ -1,4 +1,4 @@
-package plan
+package plan_test
 
 import (
 	"fmt"
@@ -10,6 +10,7 @@ import (
 	"gleaner/matcher"
 	"gleaner/orset"
 	"gleaner/place"
+	. "gleaner/plan"
 	"gleaner/shard"
 )
 

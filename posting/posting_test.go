@@ -1,4 +1,4 @@
-package posting
+package posting_test
 
 import (
 	"math"
@@ -6,6 +6,7 @@ import (
 	"testing"
 
 	"gleaner/api"
+	. "gleaner/posting"
 )
 
 // list has number k, spread far apart, for each bit k of i.

@@ -1,4 +1,4 @@
-package rx
+package rx_test
 
 import (
 	"reflect"
@@ -6,6 +6,7 @@ import (
 	"testing"
 
 	"gleaner/api"
+	. "gleaner/rx"
 )
 
 func byteOf(c byte) api.Rx    { return api.Rx{Kind: api.RxClass, Class: Single(c)} }

@@ -1,4 +1,4 @@
-package rxtext
+package rxtext_test
 
 import (
 	"reflect"
@@ -9,6 +9,7 @@ import (
 
 	"gleaner/api"
 	"gleaner/rx"
+	. "gleaner/rxtext"
 )
 
 // read is the pattern of a text that is right.

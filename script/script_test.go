@@ -1,4 +1,4 @@
-package script
+package script_test
 
 import (
 	"fmt"
@@ -8,6 +8,7 @@ import (
 	"testing"
 
 	"gleaner/api"
+	. "gleaner/script"
 )
 
 func config(nodes, groups, copies int) api.Config {

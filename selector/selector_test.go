@@ -1,4 +1,4 @@
-package selector
+package selector_test
 
 import (
 	"fmt"
@@ -11,6 +11,7 @@ import (
 	"gleaner/label"
 	"gleaner/matcher"
 	"gleaner/plan"
+	. "gleaner/selector"
 )
 
 func m(kind int, name, value string) api.Matcher {

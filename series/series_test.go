@@ -1,4 +1,4 @@
-package series
+package series_test
 
 import (
 	"fmt"
@@ -8,6 +8,7 @@ import (
 	"testing"
 
 	"gleaner/api"
+	. "gleaner/series"
 	"gleaner/symtab"
 )
 

@@ -1,4 +1,4 @@
-package shard
+package shard_test
 
 import (
 	"fmt"
@@ -12,6 +12,7 @@ import (
 	"gleaner/label"
 	"gleaner/matcher"
 	"gleaner/orset"
+	. "gleaner/shard"
 )
 
 func d(node, n int) api.Dot { return api.Dot{Node: node, N: n} }

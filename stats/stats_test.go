@@ -1,4 +1,4 @@
-package stats
+package stats_test
 
 import (
 	"fmt"
@@ -8,6 +8,7 @@ import (
 
 	"gleaner/api"
 	"gleaner/index"
+	. "gleaner/stats"
 )
 
 func build(t *testing.T, l ...string) api.Index {

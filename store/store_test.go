@@ -1,4 +1,4 @@
-package store
+package store_test
 
 import (
 	"fmt"
@@ -13,6 +13,7 @@ import (
 	"gleaner/dot"
 	"gleaner/node"
 	"gleaner/shard"
+	. "gleaner/store"
 	"gleaner/varint"
 )
 

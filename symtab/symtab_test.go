@@ -1,4 +1,4 @@
-package symtab
+package symtab_test
 
 import (
 	"math"
@@ -8,6 +8,7 @@ import (
 	"testing"
 
 	"gleaner/api"
+	. "gleaner/symtab"
 )
 
 // table has the symbols of texts, each used as often as it stands there; an empty one is free.

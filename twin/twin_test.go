@@ -1,10 +1,11 @@
-package twin
+package twin_test
 
 import (
 	"reflect"
 	"testing"
 
 	"gleaner/api"
+	. "gleaner/twin"
 )
 
 func TestMsgIsNew(t *testing.T) {

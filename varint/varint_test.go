@@ -1,4 +1,4 @@
-package varint
+package varint_test
 
 import (
 	"math"
@@ -6,6 +6,7 @@ import (
 	"testing"
 
 	"gleaner/api"
+	. "gleaner/varint"
 )
 
 // numbers are those at which the count of bytes, or of digits, changes, and the ends.
