@@ -182,8 +182,13 @@ func TestP27_3Round(t *testing.T) {
 
 func TestP27_4QuietAndEqual(t *testing.T) {
 	c := fresh(t, config(2, 2, 2))
-	if !Quiet(c) || !Equal(c) || !Equal(api.Cluster{}) {
+	if !Quiet(c) || !Equal(c) || !Equal(api.Cluster{}) || !Equal(api.Cluster{Config: api.Config{Groups: math.MaxInt}}) {
 		t.Error("new")
+	}
+	short := do(t, c, add(0, "a", "1"))
+	short.Nodes = short.Nodes[:1]
+	if Equal(short) {
+		t.Error("a node that is not there knows nothing")
 	}
 	one := do(t, c, add(0, "a", "1"))
 	if Quiet(one) || Equal(one) || !Quiet(Round(one)) {

@@ -129,7 +129,7 @@ func TestP25_5Due(t *testing.T) {
 	}
 	q.Asks[0].Tries, q.Asks[0].Series = 4, []string{a}
 	got, l := Due(q, 10)
-	if len(l) != 0 || !got.Done || got.Error != api.ErrTime || !got.Asks[0].Done || got.Asks[0].Error != api.ErrTime || len(got.Asks[0].Series) != 0 || got.Asks[1].Done || len(got.Series) != 0 {
+	if len(l) != 0 || !got.Done || got.Error != api.ErrTime || !got.Asks[0].Done || got.Asks[0].Error != api.ErrTime || len(got.Asks[0].Series) != 0 || got.Asks[0].Tries != 4 || got.Asks[0].Turn != 0 || got.Asks[0].Since != 4 || got.Asks[1].Done || len(got.Series) != 0 {
 		t.Error(got, l)
 	}
 }

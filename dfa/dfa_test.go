@@ -71,6 +71,13 @@ func TestP11_1Make(t *testing.T) {
 	if d, code := Make(build(t, "a"), 3); code != api.OK || len(d.Final) != 3 {
 		t.Error(d, code)
 	}
+	all := api.Class{}
+	for i := range all {
+		all[i] = ^uint64(0)
+	}
+	if d, code := Make(api.Nfa{Size: 1, Edges: []api.Edge{{Class: all}}}, 1); code != api.OK || len(d.Final) != 1 || !d.Final[0] {
+		t.Error(d, code)
+	}
 	for _, c := range []struct {
 		n    api.Nfa
 		most int
@@ -113,7 +120,7 @@ func wrong() []api.Dfa {
 	l[10].Groups = slices.Repeat([]int{-1}, 256)
 	l[11].Width = math.MaxInt
 	l[12] = api.Dfa{Groups: grouped(), Width: 1, Next: make([]int, 14401), Final: make([]bool, 14401)}
-	return append(l, api.Dfa{}, api.Dfa{Groups: grouped(), Width: 257, Next: make([]int, 257), Final: make([]bool, 1)}, api.Dfa{Groups: grouped(), Width: 1})
+	return append(l, api.Dfa{}, api.Dfa{Groups: grouped("a"), Width: 1, Next: []int{0}, Final: []bool{true}}, api.Dfa{Groups: grouped(), Width: 257, Next: make([]int, 257), Final: make([]bool, 1)}, api.Dfa{Groups: grouped(), Width: 1})
 }
 
 func TestP11_2Right(t *testing.T) {

@@ -87,6 +87,12 @@ func TestP13_1Errors(t *testing.T) {
 		seven.Next = append(seven.Next, (i+1)%13)
 		seven.Final = append(seven.Final, i == 0)
 	}
+	if d, code := Both(long(118), long(118)); code != api.OK || len(d.Final) != 120 {
+		t.Error(code)
+	}
+	if _, code := Any(long(118), a); code != api.ErrComplex {
+		t.Error(code)
+	}
 	for _, c := range []struct {
 		a, b api.Dfa
 		code api.Errno

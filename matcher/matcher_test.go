@@ -136,6 +136,10 @@ func TestP14_5Normal(t *testing.T) {
 			t.Error(c.l, got, code)
 		}
 	}
+	five := []api.Matcher{m(eq, "a", "1"), m(eq, "a", "2"), m(eq, "a", "3"), m(eq, "a", "4"), m(eq, "a", "5")}
+	if got, code := Normal(five); code != api.OK || !slices.Equal(got, five) {
+		t.Error(got, code)
+	}
 	for x, code := range wrong() {
 		if l, got := Normal([]api.Matcher{m(eq, "a", "1"), x, {}}); got != code || l != nil {
 			t.Error(x, got)

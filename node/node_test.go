@@ -173,6 +173,15 @@ func TestP26_4Sweep(t *testing.T) {
 			t.Error(now, got.Made, out)
 		}
 	}
+	// The groups of all that goes are told by rising groups, whichever series went first.
+	wide := config(3, 3, 1)
+	two, _ := write(t, wide, fresh(t, wide, 0), false, "b", "1")
+	two, _ = write(t, wide, two, false, "a", "1")
+	two, _ = write(t, wide, two, false, "a", "2")
+	two.Now = 11
+	if _, out := Sweep(wide, two); len(out) != 2 || out[0].Group != 1 || out[1].Group != 2 {
+		t.Error(out)
+	}
 	far := fresh(t, c, 1)
 	far.Now = 99
 	if got, out := Sweep(c, far); len(out) != 0 || !reflect.DeepEqual(got, far) {

@@ -92,6 +92,9 @@ func TestP21_6Next(t *testing.T) {
 			t.Error(node, got, ok)
 		}
 	}
+	if got, ok := Next(config(4, 4, 2, 1), 3, 3); got != 0 || !ok {
+		t.Error(got, ok)
+	}
 	if _, ok := Next(config(4, 4, 1, 1), 3, 3); ok {
 		t.Error("there is no other one")
 	}

@@ -37,6 +37,28 @@ func but(s string) api.Rx {
 	return api.Rx{Kind: api.RxClass, Class: x}
 }
 
+// span is the class of the bytes from low to high.
+func span(low, high byte) api.Rx {
+	var s []byte
+	for c := int(low); c <= int(high); c++ {
+		s = append(s, byte(c))
+	}
+	return classOf(string(s))
+}
+
+// stairs are rows and alternatives by turns, deep of them within one another; the outermost is a row, if deep is odd.
+func stairs(deep int) api.Rx {
+	x := byteOf('a')
+	for i := range deep - 1 {
+		if i%2 == 0 {
+			x = or(byteOf('b'), x)
+		} else {
+			x = then(byteOf('b'), x)
+		}
+	}
+	return x
+}
+
 func TestP8_1Class(t *testing.T) {
 	for _, c := range []byte{0, 1, 63, 64, 127, 128, 191, 192, 255} {
 		x := Single(c)
@@ -64,7 +86,7 @@ func TestP8_2Parse(t *testing.T) {
 		"-": byteOf('-'), "a-b": then(a, byteOf('-'), b), `\-`: byteOf('-'), `\.`: byteOf('.'), `\\`: byteOf('\\'), `\{\}`: then(byteOf('{'), byteOf('}')), " ~": then(byteOf(' '), byteOf('~')),
 		".": but(""), `\d`: classOf("0123456789"), `\w`: classOf("abcdefghijklmnopqrstuvwxyzABCDEFGHIJKLMNOPQRSTUVWXYZ0123456789_"), `\x00`: byteOf(0), `\xff`: byteOf(255), `\x0a`: byteOf(10),
 		"[a]": a, "[abc]": classOf("abc"), "[a-c]": classOf("abc"), "[a-a]": a, "[^a-c]": but("abc"), "[^]": but(""), `[\d\-x]`: classOf("0123456789-x"), `[\x00-\x02]`: classOf("\x00\x01\x02"), `[.*+?()|{}$]`: classOf(".*+?()|{}$"),
-		`[a-c-]`: {}, `[+-\-]`: classOf("+,-"), `[\w]`: classOf("abcdefghijklmnopqrstuvwxyzABCDEFGHIJKLMNOPQRSTUVWXYZ0123456789_"), `[\]\[\^]`: classOf("][^"), `[a-cb-d]`: classOf("abcd"),
+		`[a-c-]`: {}, `[+-\-]`: classOf("+,-"), "[ ]": byteOf(' '), "[~]": byteOf('~'), "[ -~]": span(' ', '~'), `[\w]`: classOf("abcdefghijklmnopqrstuvwxyzABCDEFGHIJKLMNOPQRSTUVWXYZ0123456789_"), `[\]\[\^]`: classOf("][^"), `[a-cb-d]`: classOf("abcd"),
 		strings.Repeat("(", 12) + "a" + strings.Repeat(")", 12): a, strings.Repeat("(a)", 20): then(byteOf('a'), a, a, a, a, a, a, a, a, a, a, a, a, a, a, a, a, a, a, a),
 	} {
 		x, at, code := Parse(s)
@@ -123,7 +145,7 @@ func TestP8_3Right(t *testing.T) {
 	for i := range sixty {
 		sixty[i] = a
 	}
-	for _, x := range []api.Rx{empty, a, then(a, b), then(or(a, b), a), or(a, empty), or(then(a, b), many(empty, 0, 0)), many(a, 0, 20), many(a, 20, -1), many(a, 1, 2), many(a, 0, 1), many(many(a, 0, -1), 2, 2), then(sixty...), nested(48)} {
+	for _, x := range []api.Rx{empty, a, then(a, b), then(or(a, b), a), or(a, empty), or(then(a, b), many(empty, 0, 0)), many(a, 0, 20), many(a, 20, -1), many(a, 1, 2), many(a, 0, 1), many(many(a, 0, -1), 2, 2), then(sixty...), nested(48), stairs(47), stairs(48)} {
 		if !Right(x) {
 			t.Error(x)
 		}
@@ -132,7 +154,7 @@ func TestP8_3Right(t *testing.T) {
 		{}, {Kind: 6}, {Kind: -1}, {Kind: api.RxClass}, {Kind: api.RxEmpty, Class: Single('a')}, {Kind: api.RxEmpty, Kids: []api.Rx{a}}, {Kind: api.RxClass, Class: Single('a'), Kids: []api.Rx{a}}, {Kind: api.RxEmpty, Min: 1}, {Kind: api.RxClass, Class: Single('a'), Max: -1},
 		then(), then(a), then(a, then(a, b)), then(a, empty), or(), or(a), or(a, or(a, b)), {Kind: api.RxOr, Kids: []api.Rx{a, b}, Max: 1}, {Kind: api.RxThen, Kids: []api.Rx{a, b}, Class: Single('a')},
 		{Kind: api.RxMany}, {Kind: api.RxMany, Kids: []api.Rx{a, b}}, many(a, 1, 1), many(a, 2, 1), many(a, -1, 1), many(a, 0, -2), many(a, 21, -1), many(a, 0, 21), many(api.Rx{}, 0, 1), then(a, api.Rx{}), or(a, then(a)),
-		then(append(sixty[:60:60], a)...), or(append(sixty[:60:60], a)...), nested(49), {Kind: api.RxMany, Kids: []api.Rx{a}, Max: -1, Class: Single('a')},
+		then(append(sixty[:60:60], a)...), or(append(sixty[:60:60], a)...), nested(49), stairs(49), stairs(50), then(stairs(48), a), {Kind: api.RxMany, Kids: []api.Rx{a}, Max: -1, Class: Single('a')},
 	} {
 		if Right(x) {
 			t.Error(x)

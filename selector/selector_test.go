@@ -41,7 +41,7 @@ func TestP31_1Check(t *testing.T) {
 		code api.Errno
 	}{
 		{api.Request{}, api.ErrArg}, {request(5, "", make([]api.Matcher, 6)...), api.ErrArg}, {request(-1, ""), api.ErrArg}, {request(3, ""), api.ErrArg}, {request(3, "A", make([]api.Matcher, 6)...), api.ErrArg}, {request(1, "a"), api.ErrArg}, {request(4, "a"), api.ErrArg},
-		{request(1, "", make([]api.Matcher, 6)...), api.ErrLong}, {request(1, "", m(0, "A", "")), api.ErrArg}, {request(1, "", m(5, "a", "")), api.ErrArg}, {request(1, "", m(1, "A", "\n")), api.ErrArg}, {request(1, "", m(1, "a", "\x7f")), api.ErrArg}, {request(1, "", m(3, "", strings.Repeat("x", 61))), api.ErrArg},
+		{request(1, "", make([]api.Matcher, 6)...), api.ErrLong}, {request(1, "", m(0, "A", "")), api.ErrArg}, {request(1, "", m(5, "a", "")), api.ErrArg}, {request(1, "", m(1, "A", "\n")), api.ErrArg}, {request(1, "", m(1, "a", "\x7f")), api.ErrArg}, {request(1, "", m(1, "a", "\x1f")), api.ErrArg}, {request(1, "", m(3, "", strings.Repeat("x", 61))), api.ErrArg},
 		{request(1, "", m(1, "A", "")), api.ErrLabel}, {request(1, "", m(1, "A", ""), m(9, "a", "")), api.ErrLabel}, {request(1, "", m(1, "a", ""), m(1, "", "")), api.ErrLabel},
 	} {
 		if code := Check(x.q); code != x.code {

@@ -90,6 +90,11 @@ func TestP17_2Right(t *testing.T) {
 	if Right(again) {
 		t.Error("two rows have one text")
 	}
+	third := odd(api.Row{Ids: []int{0, 1, 0}, Refs: 1})
+	third.Symbols.List = symbols("a", 2, "1", 1)
+	if Right(third) {
+		t.Error("a name stands without a value")
+	}
 }
 
 func TestP17_3LabelsTextFind(t *testing.T) {

@@ -57,6 +57,9 @@ func TestP19_2AddAndRemove(t *testing.T) {
 	if !Same(l, Of(x)) {
 		t.Error("changed", l)
 	}
+	// Counts that are not those of x: nothing is promised, but that the call ends.
+	Remove(nil, x, `{a="1"}`)
+	Add([]api.Count{{Name: "z"}, {Name: "a"}}, x, `{b="9"}`)
 }
 
 func TestP19_3Most(t *testing.T) {

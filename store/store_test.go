@@ -84,6 +84,18 @@ func TestP35_1Write(t *testing.T) {
 	}
 }
 
+func TestP35_1And2JustSoMany(t *testing.T) {
+	c := config(1, 8, 1)
+	n, _ := node.New(c, 0)
+	for i := range 4000 {
+		n.Sends = append(n.Sends, api.Send{Group: 1, Number: i})
+	}
+	s, code := Write(n)
+	if back, d := Read(c, s); code != api.OK || d != api.OK || !Same(n, back) {
+		t.Error(code, d)
+	}
+}
+
 func TestP35_2Read(t *testing.T) {
 	c := config(3, 2, 1)
 	message := func(m api.Msg) string {
